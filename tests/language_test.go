@@ -85,7 +85,8 @@ func languageFaults(text []byte) []string {
 			faults = append(faults, variableFaults(d)...)
 		}
 	}
-	return append(faults, meansFaults(file)...)
+	faults = append(faults, meansFaults(file)...)
+	return append(faults, tableFaults(file)...)
 }
 
 func layoutFaults(text []byte) []string {
@@ -163,6 +164,68 @@ func startFaults(value ast.Expr) []string {
 	return faults
 }
 
+// tableFaults tells where a variable of the package is written to, or where what it is made of gets out. It goes by names: a local one should have another.
+func tableFaults(file *ast.File) []string {
+	names := variableNames(file)
+	var faults []string
+	look := func(what string, places ...ast.Expr) {
+		for _, e := range places {
+			if name := rootName(e); slices.Contains(names, name) {
+				faults = append(faults, what+" the package-level variable "+name)
+			}
+		}
+	}
+	ast.Inspect(file, func(n ast.Node) bool {
+		switch x := n.(type) {
+		case *ast.AssignStmt:
+			look("assigns", x.Lhs...)
+		case *ast.IncDecStmt:
+			look("counts", x.X)
+		case *ast.RangeStmt:
+			look("ranges into", x.Key, x.Value)
+		case *ast.UnaryExpr:
+			if x.Op == token.AND {
+				look("takes the address of", x.X)
+			}
+		case *ast.SliceExpr:
+			look("hands out a piece of", x.X)
+		}
+		return true
+	})
+	return faults
+}
+
+func variableNames(file *ast.File) []string {
+	var names []string
+	for _, decl := range file.Decls {
+		d, ok := decl.(*ast.GenDecl)
+		if !ok || d.Tok != token.VAR {
+			continue
+		}
+		for _, s := range d.Specs {
+			for _, name := range s.(*ast.ValueSpec).Names {
+				names = append(names, name.Name)
+			}
+		}
+	}
+	return names
+}
+
+// rootName is the variable of which e is a part, or e itself.
+func rootName(e ast.Expr) string {
+	switch x := e.(type) {
+	case *ast.Ident:
+		return x.Name
+	case *ast.IndexExpr:
+		return rootName(x.X)
+	case *ast.SelectorExpr:
+		return rootName(x.X)
+	case *ast.ParenExpr:
+		return rootName(x.X)
+	}
+	return ""
+}
+
 func isNamed(e ast.Expr, pack, name string) bool {
 	s, ok := e.(*ast.SelectorExpr)
 	if !ok {
@@ -223,12 +286,15 @@ func TestLanguageFaultsAreSeen(t *testing.T) {
 		"import \"sync\"\n\nfunc f(m *sync.Map) {}",
 		"func f() { println(1) }", "func f() []rune { return []rune(\"abc\") }", "func f(m map[int]bool) {}",
 		"func f(",
+		"var x = [2]int{1, 2}\n\nfunc f() { x[0] = 2 }", "var x = [1][1]int{{1}}\n\nfunc f() { (x[0])[0]++ }",
+		"var x = 1\n\nfunc f() *int { return &x }", "var x = [2]int{1, 2}\n\nfunc f() []int { return x[:1] }",
+		"var x = 1\n\nfunc f(list []int) {\n\tfor x = range list {\n\t}\n}",
 	} {
 		if len(languageFaults([]byte("package impl\n\n"+body+"\n"))) == 0 {
 			t.Errorf("not seen: %.60q", body)
 		}
 	}
-	right := "package impl\n\nimport \"errors\"\n\nvar errNone = errors.New(\"none\")\n\nvar table = [2]int{1, 2}\n\nfunc f() error { return errNone }\n"
+	right := "package impl\n\nimport \"errors\"\n\nvar errNone = errors.New(\"none\")\n\nvar table = [2]int{1, 2}\n\nfunc f() error { return errNone }\n\nfunc g(i int) int { return table[i] }\n"
 	if faults := languageFaults([]byte(right)); len(faults) != 0 {
 		t.Errorf("seen where there is none: %q", faults)
 	}
