@@ -14,18 +14,19 @@ func TestFourLimits(t *testing.T) {
 	}
 }
 
-// A fourTurn is one of the chapter's two functions with its limit and what the chapter asks of it.
-type fourTurn struct {
+// A listTurn is a function that turns so many numbers, with their limit and what its chapter asks of it.
+type listTurn struct {
 	name  string
+	size  int
 	limit int
 	turn  func([]int) []int
 	want  func([]int) []int
 }
 
-func fourTurns() []fourTurn {
-	return []fourTurn{
-		{"Four", impl.MaxLeft, impl.Four, fourByShares},
-		{"FourBack", impl.MaxBack, impl.FourBack, fourBackBySteps},
+func fourTurns() []listTurn {
+	return []listTurn{
+		{"Four", 16, impl.MaxLeft, impl.Four, fourByShares},
+		{"FourBack", 16, impl.MaxBack, impl.FourBack, fourBackBySteps},
 	}
 }
 
@@ -124,13 +125,18 @@ func fourLists(limit int) [][]int {
 	return lists
 }
 
+func checkTurns(t *testing.T, f listTurn, lists [][]int) {
+	t.Helper()
+	for _, list := range lists {
+		if got, want := f.turn(list), f.want(list); !slices.Equal(got, want) {
+			t.Fatalf("%s(%v): %v; want %v", f.name, list, got, want)
+		}
+	}
+}
+
 func TestFoursAreWhatTheChapterTells(t *testing.T) {
 	for _, f := range fourTurns() {
-		for _, list := range fourLists(f.limit) {
-			if got, want := f.turn(list), f.want(list); !slices.Equal(got, want) {
-				t.Fatalf("%s(%v): %v; want %v", f.name, list, got, want)
-			}
-		}
+		checkTurns(t, f, fourLists(f.limit))
 	}
 }
 
@@ -249,56 +255,70 @@ func TestFourBackWhereTheDivisionGoesUp(t *testing.T) {
 	}
 }
 
-func wantNoTurn(t *testing.T, f fourTurn, list []int) {
+func wantNoTurn(t *testing.T, f listTurn, list []int) {
 	t.Helper()
 	if got := f.turn(list); len(got) != 0 {
 		t.Errorf("%s of %d numbers %v: %v; want none", f.name, len(list), list, got)
 	}
 }
 
-func TestFoursOfOtherLists(t *testing.T) {
-	for _, f := range fourTurns() {
-		wantNoTurn(t, f, nil)
-		for _, size := range []int{0, 1, 4, 8, 15, 17, 32, 64, 256} {
+// checkOtherLists looks at lists that are too short or too long, and at one number outside at each place.
+func checkOtherLists(t *testing.T, f listTurn) {
+	t.Helper()
+	wantNoTurn(t, f, nil)
+	for _, size := range []int{0, 1, 4, 8, 15, 16, 17, 32, 63, 64, 65, 128, 256} {
+		if size != f.size {
 			wantNoTurn(t, f, allAlike(size, 0))
 			wantNoTurn(t, f, allAlike(size, 1))
 		}
-		for place := range 16 {
-			for _, n := range append(beyond(f.limit), math.MinInt+32, math.MaxInt-31) {
-				wantNoTurn(t, f, alone(16, place, n))
-				wantNoTurn(t, f, sumsOf(allAlike(16, 5), alone(16, place, n-5)))
-			}
-			for _, n := range []int{f.limit, -f.limit} {
-				if got := f.turn(alone(16, place, n)); len(got) != 16 {
-					t.Errorf("%s of %d at %d: %v", f.name, n, place, got)
-				}
+	}
+	for place := range f.size {
+		for _, n := range append(beyond(f.limit), math.MinInt+32, math.MaxInt-31) {
+			wantNoTurn(t, f, alone(f.size, place, n))
+			wantNoTurn(t, f, sumsOf(allAlike(f.size, 5), alone(f.size, place, n-5)))
+		}
+		for _, n := range []int{f.limit, -f.limit} {
+			if got := f.turn(alone(f.size, place, n)); len(got) != f.size {
+				t.Errorf("%s of %d at %d: %v", f.name, n, place, got)
 			}
 		}
+	}
+}
+
+func TestFoursOfOtherLists(t *testing.T) {
+	for _, f := range fourTurns() {
+		checkOtherLists(t, f)
+	}
+}
+
+// checkLeavesList looks at the list, the room behind it, and what is answered once both have been written over.
+func checkLeavesList(t *testing.T, f listTurn, list []int) {
+	t.Helper()
+	room := append(slices.Clone(list), 77, 78, 79, 80)
+	before := slices.Clone(room)
+	got := f.turn(room[:len(list)])
+	kept := slices.Clone(got)
+	if !slices.Equal(room, before) {
+		t.Fatalf("%s changed %v to %v", f.name, before, room)
+	}
+	for place := range room {
+		room[place] = 1234
+	}
+	if again := f.turn(list); !slices.Equal(got, kept) || !slices.Equal(again, kept) {
+		t.Fatalf("%s of %v: %v, then %v", f.name, list, kept, again)
+	}
+	for place := range got {
+		got[place] = -1
+	}
+	if again := f.turn(list); !slices.Equal(again, kept) {
+		t.Fatalf("%s of %v: %v, then %v", f.name, list, kept, again)
 	}
 }
 
 func TestFoursLeaveTheirLists(t *testing.T) {
 	for _, f := range fourTurns() {
 		for _, list := range append(fourLists(f.limit), allAlike(15, 7), allAlike(17, 7), alone(16, 3, f.limit+1)) {
-			room := append(slices.Clone(list), 77, 78, 79, 80)
-			before := slices.Clone(room)
-			got := f.turn(room[:len(list)])
-			kept := slices.Clone(got)
-			if !slices.Equal(room, before) {
-				t.Fatalf("%s changed %v to %v", f.name, before, room)
-			}
-			for place := range room {
-				room[place] = 1234
-			}
-			if again := f.turn(list); !slices.Equal(got, kept) || !slices.Equal(again, kept) {
-				t.Fatalf("%s of %v: %v, then %v", f.name, list, kept, again)
-			}
-			for place := range got {
-				got[place] = -1
-			}
-			if again := f.turn(list); !slices.Equal(again, kept) {
-				t.Fatalf("%s of %v: %v, then %v", f.name, list, kept, again)
-			}
+			checkLeavesList(t, f, list)
 		}
 	}
 }
