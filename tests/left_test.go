@@ -657,25 +657,38 @@ func checkLevelsAt(t *testing.T, row string, at int, c impl.Cond) {
 	wantLevelsRow(t, want, c, row[at:wantBehind])
 }
 
-func TestReadLevelsAtEachPlaceOfEachRow(t *testing.T) {
-	everyText("01", 10, func(row string) {
+// plainRows are long rows of a few signs again and again, and one that is mixed.
+func plainRows() []string {
+	rows := []string{longRow(1500), strings.Repeat("0110010", 150)}
+	for _, signs := range []string{"0", "1", "01", "011"} {
+		rows = append(rows, strings.Repeat(signs, 200))
+	}
+	return rows
+}
+
+// eachPlaceOfRows goes through all rows of up to so many signs, and these others, with the places about their ends.
+func eachPlaceOfRows(most int, rows []string, look func(row string, at int)) {
+	lookThrough := func(row string) {
 		for at := -2; at <= len(row)+2; at++ {
-			for _, c := range condsAt(4) {
-				checkLevelsAt(t, row, at, c)
-			}
+			look(row, at)
 		}
-	})
-	rows := []string{longRow(1500), strings.Repeat("1", 200), strings.Repeat("01", 200), strings.Repeat("011", 200), strings.Repeat("0110010", 150), strings.Repeat("0", 200)}
+	}
+	everyText("01", most, lookThrough)
+	for _, row := range rows {
+		lookThrough(row)
+	}
+}
+
+func TestReadLevelsAtEachPlaceOfEachRow(t *testing.T) {
+	rows := plainRows()
 	for _, levels := range sparse(20, 64, 60, 3) {
 		rows = append(rows, longRow(19)+levelsSigns(levels, smallAt(4))+levelsSigns(levels, largeAt(4))+longRow(23))
 	}
-	for _, row := range rows {
-		for at := -2; at <= len(row)+2; at++ {
-			for _, c := range condsAt(4) {
-				checkLevelsAt(t, row, at, c)
-			}
+	eachPlaceOfRows(10, rows, func(row string, at int) {
+		for _, c := range condsAt(4) {
+			checkLevelsAt(t, row, at, c)
 		}
-	}
+	})
 }
 
 func TestReadLevelsAtFarPlaces(t *testing.T) {
